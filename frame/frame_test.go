@@ -265,6 +265,7 @@ func withUsed(f api.Frame, s string, set uint) api.Frame {
 
 // TestLengthsAreNoMatter: whether a frame has an encoding hangs neither on the lengths of its command's strings nor on what is in them.
 func TestLengthsAreNoMatter(t *testing.T) {
+	t.Parallel()
 	var some []api.Frame
 	for _, f := range append(validFrames(), wrongFrames()...) {
 		if len(frame.Write(f)) < 60 && len(f.Cmd.Parts) < 6 && (f.Token == token || f.Token == operator && f.Kind == 2) {
@@ -292,6 +293,7 @@ func TestLengthsAreNoMatter(t *testing.T) {
 }
 
 func TestFewerThanNineBytes(t *testing.T) {
+	t.Parallel()
 	frames.isNothing(t, "")
 	for n := range 9 {
 		for first := range 256 {
@@ -315,6 +317,7 @@ func TestFewerThanNineBytes(t *testing.T) {
 }
 
 func TestACommandBehindTheOtherKind(t *testing.T) {
+	t.Parallel()
 	var commands, opers []string
 	for _, c := range validCmds() {
 		commands = append(commands, cmd.Write(c))
@@ -363,6 +366,7 @@ func TestBytesThatAreNoGroups(t *testing.T) {
 }
 
 func TestFramesStandAlone(t *testing.T) {
+	t.Parallel()
 	all := validFrames()
 	frames.noneBeginsWithAnother(t, all)
 	for _, f := range all {
@@ -373,6 +377,7 @@ func TestFramesStandAlone(t *testing.T) {
 }
 
 func TestEveryByteInEveryPlaceOfFrames(t *testing.T) {
+	t.Parallel()
 	for _, s := range frames.shortEncodings(validFrames()) {
 		if len(s) > 40 || s[1] != '1' {
 			continue
@@ -389,6 +394,7 @@ func TestEveryByteInEveryPlaceOfFrames(t *testing.T) {
 }
 
 func TestAllShortBytesBehindAHead(t *testing.T) {
+	t.Parallel()
 	for _, x := range []struct {
 		front, letters string
 		most, least    int
@@ -415,6 +421,7 @@ func TestAllShortBytesBehindAHead(t *testing.T) {
 }
 
 func TestBentFrames(t *testing.T) {
+	t.Parallel()
 	all := frames.shortEncodings(validFrames())
 	random := rand.New(rand.NewSource(6))
 	was := 0

@@ -285,6 +285,7 @@ func TestRepliesAreShort(t *testing.T) {
 }
 
 func TestRepliesStandAlone(t *testing.T) {
+	t.Parallel()
 	all := validReplies()
 	replies.noneBeginsWithAnother(t, all)
 	replies.isNothing(t, "")
@@ -316,6 +317,7 @@ func TestBytesThatAreNoGroupsOfReplies(t *testing.T) {
 
 // TestAKindWithWhatAnotherOneUses: what stands behind the Kind of each reply, behind every other one.
 func TestAKindWithWhatAnotherOneUses(t *testing.T) {
+	t.Parallel()
 	for _, s := range replies.shortEncodings(validReplies()) {
 		for n := range 256 {
 			isReplyAsItCanBeCut(t, octet(uint8(n))+s[1:])
@@ -334,6 +336,7 @@ func TestEveryByteInEveryPlaceOfReplies(t *testing.T) {
 }
 
 func TestAllShortBytesAsReplies(t *testing.T) {
+	t.Parallel()
 	for _, x := range []struct {
 		front, letters string
 		most, least    int
@@ -352,6 +355,7 @@ func TestAllShortBytesAsReplies(t *testing.T) {
 }
 
 func TestBentReplies(t *testing.T) {
+	t.Parallel()
 	all := replies.shortEncodings(validReplies())
 	random := rand.New(rand.NewSource(6))
 	was := 0

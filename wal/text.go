@@ -4,35 +4,9 @@ import (
 	"wapentake/api"
 	"wapentake/entry"
 	"wapentake/num"
+	"wapentake/row"
 	"wapentake/sum"
 )
-
-// checkWidth is how many bytes of a row its checksum has.
-const checkWidth = 4
-
-// row returns the row of a text.
-func row(t *sum.Table, text string) string {
-	return num.V(uint64(len(text))) + num.U(uint64(t.Of(text)), checkWidth) + text
-}
-
-// readRow returns the text with whose row s begins, and the bytes behind it.
-func readRow(t *sum.Table, s string) (text, rest string, ok bool) {
-	length, size, ok := num.ReadV(s)
-	if !ok {
-		return "", "", false
-	}
-	s = s[size:]
-	check, ok := num.ReadU(s, checkWidth)
-	// The length is held against what is left, not added to: a sum could wrap round.
-	if !ok || length > uint64(len(s)-checkWidth) {
-		return "", "", false
-	}
-	text, rest = s[checkWidth:checkWidth+length], s[checkWidth+length:]
-	if uint64(t.Of(text)) != check {
-		return "", "", false
-	}
-	return text, rest, true
-}
 
 // headText returns the text of a head.
 func headText(base int, snap uint64) string {
@@ -88,7 +62,7 @@ func recordText(r api.Rec) string {
 func readRecords(t *sum.Table, s string) []api.Rec {
 	var recs []api.Rec
 	for {
-		text, rest, ok := readRow(t, s)
+		text, size, ok := row.Read(t, s)
 		if !ok {
 			return recs
 		}
@@ -97,7 +71,7 @@ func readRecords(t *sum.Table, s string) []api.Rec {
 			return recs
 		}
 		recs = append(recs, r)
-		s = rest
+		s = s[size:]
 	}
 }
 

@@ -51,6 +51,11 @@ func extremeMsg(random *rand.Rand, r *raft.Raft) msg {
 	if random.Intn(20) == 0 {
 		x.Term = anyExtreme(random)
 	}
+	if x.Kind == api.MSection {
+		// Few enough to have all sections of one at times.
+		x.Index, x.LogTerm, x.Members = extremes[uint64(len(extremes))-1-r.Term()%3], 3, 7
+		x.Section = uint8(random.Intn(5))
+	}
 	x.Entries = extremeEntries(random, x.Index, x.LogTerm)
 	return x
 }
@@ -68,7 +73,7 @@ func TestExtremes(t *testing.T) {
 		if e != api.OK {
 			continue
 		}
-		for range 150 {
+		for range 200 {
 			callAnything(random, r)
 		}
 	}
